@@ -255,17 +255,19 @@ func TestP2_2VarWrongInputs(t *testing.T) {
 	refused("", 0, api.ErrEnd)
 	refused("\x01\x01", 2, api.ErrEnd)
 	refused("\x01\x80", 1, api.ErrEnd)
-	for n := 1; n <= 8; n++ {
+	for n := 1; n <= 9; n++ { // nine that ask for a tenth, too: ErrEnd is named ahead of ErrForm
 		refused(strings.Repeat("\x80", n), 0, api.ErrEnd)
 		refused(strings.Repeat("\xff", n), 0, api.ErrEnd)
+		refused("ab"+strings.Repeat("\xff", n), 2, api.ErrEnd)
 		refused(strings.Repeat("\x80", n)+"\x00", 0, api.ErrForm)
 		refused(strings.Repeat("\xff", n)+"\x00\x01", 0, api.ErrForm)
 		refused("ab"+strings.Repeat("\xff", n)+"\x00", 2, api.ErrForm)
 	}
-	// nine that ask for a tenth, whether it is there or not, and whatever it is
+	// nine that ask for a tenth, whatever it is
 	for _, nine := range []string{strings.Repeat("\x80", 9), strings.Repeat("\xff", 9), strings.Repeat("\xff", 8) + "\x81"} {
-		for _, tenth := range []string{"", "\x00", "\x01", "\x80", "\x01\x01"} {
+		for _, tenth := range []string{"\x00", "\x01", "\x7f", "\x80", "\xff", "\x01\x01", "\x80\x80"} {
 			refused(nine+tenth, 0, api.ErrForm)
+			refused("ab"+nine+tenth, 2, api.ErrForm)
 		}
 	}
 }
