@@ -7,7 +7,7 @@ import (
 
 const (
 	longestKey = 8       // bytes of a piece that is looked up: what a key holds
-	few        = 64      // places that are sought without an index: it would cost more than it saves
+	few        = 512     // places that are sought without an index: it would cost more than it saves
 	leastRoom  = 1 << 16 // bytes that an index takes behind its window, before a new one is begun
 )
 

@@ -386,8 +386,8 @@ func TestP6_2ParseOfEveryShortText(t *testing.T) {
 func TestP6_2ParseOfManyTexts(t *testing.T) {
 	r := rand.New(rand.NewSource(62))
 	for range 400 {
-		b := repeating(r, 1+r.Intn(900), 1+r.Intn(6))
-		window := []int{1 + r.Intn(8), 1 + r.Intn(900), math.MaxInt}[r.Intn(3)]
+		b := repeating(r, 1+r.Intn(1800), 1+r.Intn(6))
+		window := []int{1 + r.Intn(8), 1 + r.Intn(1800), math.MaxInt}[r.Intn(3)]
 		least := []int{1 + r.Intn(4), 1 + r.Intn(20)}[r.Intn(2)]
 		most := []int{least, least + r.Intn(8), least + r.Intn(300), math.MaxInt}[r.Intn(4)]
 		checkParse(t, b, r.Intn(len(b)+1), window, least, most)
@@ -601,7 +601,7 @@ func checkRest(t *testing.T, name string, b []byte, from, window, least, most in
 func TestP6_4(t *testing.T) {
 	r := rand.New(rand.NewSource(64))
 	for range 300 {
-		b := repeating(r, r.Intn(700)+1, 1+r.Intn(5))
+		b := repeating(r, r.Intn(1500)+1, 1+r.Intn(5))
 		least := 1 + r.Intn(12)
 		checkRest(t, "a text that repeats", b, r.Intn(len(b)+1), 1+r.Intn(len(b)+3), least, least+r.Intn(300), matchByWords)
 	}
@@ -627,6 +627,24 @@ func TestP6_4OfLongTexts(t *testing.T) {
 		{0, 700, 3, 258}, {5, 1, 1, 9}, {70000, 9000, 1, 273}, {100, 32768, 3, 258}, {150000, math.MaxInt, 2, math.MaxInt}, {len(b) - 40, 32768, 3, 258},
 	} {
 		checkRest(t, "a long text", b, x.from, x.window, x.least, x.most, byMatch)
+	}
+}
+
+// P6.4: rests that are short beside what stands ahead of them, one behind the other, as those of a packed text's blocks are.
+func TestP6_4OfShortRests(t *testing.T) {
+	r := rand.New(rand.NewSource(66))
+	for _, b := range [][]byte{repeating(r, 90000, 200), randomText(r, 90000, 256), randomText(r, 90000, 2), make([]byte, 90000)} {
+		for _, size := range []int{1, 2, 3, 63, 64, 65, 300, 511, 512, 513, 700} {
+			for from := 40000; from < 40000+5*size; from += size {
+				checkRest(t, "a part", b[:from+size], from, 32768, 3, 258, byMatch)
+			}
+		}
+	}
+	b := slices.Concat(randomText(r, 32768, 256), randomText(r, 200000, 256))
+	for from := 32768; from+100 <= len(b); from += 100 {
+		if l, e := token.Parse(b[:from+100], from, 32768, 3, 258); e != api.OK || len(l) == 0 {
+			t.Fatal(len(l), int(e))
+		}
 	}
 }
 
