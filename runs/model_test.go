@@ -161,25 +161,25 @@ func stopByWords(symbols []int, n int) (int, api.Errno) {
 	return len(symbols), api.ErrEnd
 }
 
-// tooManyByWords seeks the place at which there are more than most: behind a run's last symbol, or at a symbol of a place above 0. It is looked for ahead of where the reading stops, and there.
-func tooManyByWords(symbols []int, most, stop int) (int, bool) {
+// tooManyByWords is whether there are more than most places at the end of a run, or at a place above 0, ahead of the symbol at which symbols are read no further. A run to which that symbol belongs has not ended.
+func tooManyByWords(symbols []int, most, stop int) bool {
 	count := 0
 	var run []int
-	for at, symbol := range symbols[:min(stop+1, len(symbols))] {
-		if symbol == 0 || symbol == 1 {
-			run = append(run, symbol)
+	for at := range stop + 1 {
+		if at < len(symbols) && (symbols[at] == 0 || symbols[at] == 1) {
+			run = append(run, symbols[at])
 			continue
 		}
 		count += worthByWords(run)
 		run = nil
-		if at != stop {
+		if at < stop {
 			count++
 		}
 		if count > most {
-			return at, true
+			return true
 		}
 	}
-	return 0, false
+	return false
 }
 
 func placesByWords(symbols []int, n, most int) ([]int, api.Errno) {
@@ -187,14 +187,11 @@ func placesByWords(symbols []int, n, most int) ([]int, api.Errno) {
 		return nil, api.ErrArg
 	}
 	stop, e := stopByWords(symbols, n)
-	at, tooMany := tooManyByWords(symbols, most, stop)
-	switch {
-	case tooMany && at < stop:
+	if tooManyByWords(symbols, most, stop) {
 		return nil, api.ErrBig
-	case e != api.OK:
+	}
+	if e != api.OK {
 		return nil, e
-	case tooMany:
-		return nil, api.ErrBig
 	}
 	var places, run []int
 	for _, symbol := range symbols {

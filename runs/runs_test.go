@@ -558,8 +558,10 @@ func TestP11_6LongRuns(t *testing.T) {
 			most   int
 			want   api.Errno
 		}{
-			{[]int{3}, k - 1, api.ErrBig}, {[]int{2, 3}, k, api.ErrBig},
-			{[]int{0, 3}, math.MaxInt, api.ErrForm}, {[]int{1, 3}, math.MaxInt, api.ErrForm}, {[]int{0}, math.MaxInt, api.ErrForm}, {[]int{1, 1, 3}, math.MaxInt, api.ErrForm}, {[]int{0, 3}, 0, api.ErrForm},
+			{[]int{3}, k - 1, api.ErrBig}, {[]int{2, 3}, k, api.ErrBig}, {nil, 0, api.ErrBig}, {nil, k - 1, api.ErrBig}, {nil, k, api.ErrEnd}, {[]int{-1}, k - 1, api.ErrBig}, {[]int{4}, k, api.ErrForm}, {[]int{3, 3}, k - 1, api.ErrBig},
+			{[]int{0, 3}, math.MaxInt, api.ErrForm}, {[]int{1, 3}, math.MaxInt, api.ErrForm}, {[]int{0}, math.MaxInt, api.ErrForm}, {[]int{1, 1, 3}, math.MaxInt, api.ErrForm},
+			// the 21st symbol stands ahead of the run's end, whatever most is
+			{[]int{0, 3}, 0, api.ErrForm}, {[]int{0}, 0, api.ErrForm}, {[]int{1}, k - 1, api.ErrForm}, {[]int{0, 0, 0, -1}, 0, api.ErrForm}, {slices.Concat([]int{2}, run, []int{0}), k - 1, api.ErrBig},
 			{slices.Concat([]int{2}, run, []int{0, 3}), math.MaxInt, api.ErrForm}, {slices.Concat([]int{2}, run, []int{1, 3}), k + 1, api.ErrForm},
 		} {
 			if _, e := places(t, slices.Concat(run, c.behind), 2, c.most); e != c.want {
@@ -569,7 +571,7 @@ func TestP11_6LongRuns(t *testing.T) {
 	}
 }
 
-// Of errors that are told at one symbol the first that is named comes; else the one that is told at an earlier symbol. A run that is too long is told behind it.
+// ErrArg comes first; of the others the one that is told earlier. That a run is too many is told at its end, ahead of what stands, or lacks, behind it.
 func TestP11_6ErrorsInOrder(t *testing.T) {
 	for _, c := range []struct {
 		symbols []int
@@ -577,9 +579,9 @@ func TestP11_6ErrorsInOrder(t *testing.T) {
 		want    api.Errno
 	}{
 		{nil, 0, -1, api.ErrArg}, {nil, 0, 9, api.ErrArg}, {nil, 1, -1, api.ErrArg}, {[]int{-1}, 257, 9, api.ErrArg}, {[]int{-1}, 3, -1, api.ErrArg}, {[]int{4, 4}, 3, -1, api.ErrArg}, {[]int{2, 2, 4}, 3, -1, api.ErrArg},
-		{[]int{1, 1}, 3, 5, api.ErrEnd}, {nil, 3, 0, api.ErrEnd}, {[]int{0}, 3, 0, api.ErrEnd},
-		{[]int{1, 1, -1}, 3, 5, api.ErrForm}, {[]int{1, 1, 5}, 3, 5, api.ErrForm}, {[]int{1, 1, 5, 4}, 3, 0, api.ErrForm},
-		{[]int{1, 1, 4, 4}, 3, 5, api.ErrTail}, {[]int{0, 4, -1}, 3, 0, api.ErrTail},
+		{nil, 3, 0, api.ErrEnd}, {[]int{1, 1}, 3, 5, api.ErrBig}, {[]int{1, 1}, 3, 6, api.ErrEnd}, {[]int{0}, 3, 0, api.ErrBig}, {[]int{0}, 3, 1, api.ErrEnd}, {[]int{2, 0}, 3, 1, api.ErrBig}, {[]int{2, 0}, 3, 2, api.ErrEnd},
+		{[]int{1, 1, -1}, 3, 5, api.ErrBig}, {[]int{1, 1, -1}, 3, 6, api.ErrForm}, {[]int{1, 1, 5}, 3, 5, api.ErrBig}, {[]int{1, 1, 5}, 3, 6, api.ErrForm}, {[]int{1, 1, 5, 4}, 3, 0, api.ErrBig}, {[]int{1, 1, 5, 4}, 3, 6, api.ErrForm},
+		{[]int{1, 1, 4, 4}, 3, 5, api.ErrBig}, {[]int{1, 1, 4, 4}, 3, 6, api.ErrTail}, {[]int{0, 4, -1}, 3, 0, api.ErrBig}, {[]int{0, 4, -1}, 3, 1, api.ErrTail}, {[]int{0, 4, 0}, 3, 1, api.ErrTail},
 		{[]int{1, 1, 4}, 3, 5, api.ErrBig}, {[]int{1, 1, 2}, 3, 5, api.ErrBig}, {[]int{1, 1, 2, -1}, 3, 5, api.ErrBig},
 		{[]int{2, 2}, 3, 1, api.ErrBig}, {[]int{2, 2, -1}, 3, 1, api.ErrBig}, {[]int{2, 2, 5}, 3, 1, api.ErrBig}, {[]int{2, 2, 4, 4}, 3, 1, api.ErrBig},
 		{[]int{2, -1, 2}, 3, 1, api.ErrForm}, {[]int{2, 4, 2}, 3, 1, api.ErrTail}, {[]int{2, 5, 4, 4}, 3, 0, api.ErrBig},
@@ -588,6 +590,34 @@ func TestP11_6ErrorsInOrder(t *testing.T) {
 		if _, e := places(t, c.symbols, c.n, c.most); e != c.want {
 			t.Errorf("Places(%v, %d, %d): %v, want %v", c.symbols, c.n, c.most, e, c.want)
 		}
+	}
+}
+
+// A run that is one too many, and one that is just not, with all that may stand ahead of it and behind it.
+func TestP11_6RunsOneTooMany(t *testing.T) {
+	for _, ahead := range [][]int{nil, {2}, {3, 2}, {1, 0, 3}, {0, 2, 1, 2}} {
+		before, _ := placesByWords(append(slices.Clone(ahead), 4), 3, math.MaxInt)
+		eachList([]int{0, 1}, 6, func(run []int) {
+			if len(run) == 0 {
+				return
+			}
+			count := len(before) + worthByWords(run)
+			for _, c := range []struct {
+				behind []int
+				want   api.Errno
+			}{
+				{nil, api.ErrEnd}, {[]int{-1}, api.ErrForm}, {[]int{5}, api.ErrForm}, {[]int{math.MinInt, 4}, api.ErrForm}, {[]int{math.MaxInt, 4}, api.ErrForm},
+				{[]int{4, 4}, api.ErrTail}, {[]int{4, 0}, api.ErrTail}, {[]int{4, -1}, api.ErrTail}, {[]int{2}, api.ErrBig}, {[]int{3, -1}, api.ErrBig}, {[]int{4}, api.OK},
+			} {
+				l := slices.Concat(ahead, run, c.behind)
+				if _, e := places(t, l, 3, count-1); e != api.ErrBig {
+					t.Errorf("Places(%v, 3, %d): %v, want %v", l, count-1, e, api.ErrBig)
+				}
+				if _, e := places(t, l, 3, count); e != c.want {
+					t.Errorf("Places(%v, 3, %d): %v, want %v", l, count, e, c.want)
+				}
+			}
+		})
 	}
 }
 

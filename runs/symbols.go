@@ -55,31 +55,46 @@ func Places(symbols []int, n, most int) ([]int, api.Errno) {
 	return unrolled(most, func(tell teller[int]) api.Errno { return readSymbols(symbols, n, tell) })
 }
 
-// readSymbols tells the places of symbols, run by run, up to the end or the first error. That a run has ended is seen by the symbol behind it, so what is wrong with that one comes first, as it is named first.
+// readSymbols tells the places of symbols, run by run, up to the end or the first error. A run is told ahead of the symbol behind it, as that it is too many is told at its end, whatever comes then.
 func readSymbols(symbols []int, n int, tell teller[int]) api.Errno {
-	first := 0 // where the run begins that is being read
+	at := 0
 runs:
-	for at, symbol := range symbols {
+	for {
+		run, e := runOf(symbols[at:])
+		if e != api.OK {
+			return e
+		}
+		if e := tell(0, worth(run)); e != api.OK {
+			return e
+		}
+		at += len(run)
 		switch {
-		case symbol < 0 || symbol > n+1:
+		case at == len(symbols):
+			return api.ErrEnd
+		case symbols[at] < 0 || symbols[at] > n+1:
 			return api.ErrForm
-		case symbol <= 1 && at-first == mostSymbols:
-			return api.ErrForm
-		case symbol <= 1:
-			continue runs
-		case symbol == n+1 && at+1 < len(symbols):
-			return api.ErrTail
+		case symbols[at] == n+1:
+			break runs
 		}
-		if e := tell(0, worth(symbols[first:at:at])); e != api.OK {
+		if e := tell(symbols[at]-1, 1); e != api.OK {
 			return e
 		}
-		if symbol == n+1 {
-			return api.OK
-		}
-		if e := tell(symbol-1, 1); e != api.OK {
-			return e
-		}
-		first = at + 1
+		at++
 	}
-	return api.ErrEnd
+	if at+1 < len(symbols) {
+		return api.ErrTail
+	}
+	return api.OK
+}
+
+// runOf tells the run of symbols 0 and 1 with which symbols begin; it may be empty.
+func runOf(symbols []int) ([]int, api.Errno) {
+	n := 0
+	for n < len(symbols) && (symbols[n] == 0 || symbols[n] == 1) {
+		if n == mostSymbols {
+			return nil, api.ErrForm
+		}
+		n++
+	}
+	return symbols[:n:n], api.OK
 }
