@@ -721,7 +721,7 @@ func TestP12_4ManyStreams(t *testing.T) {
 	}
 }
 
-// What others made: with six tables that change, and of two blocks, of which the first one has more bytes than Make takes.
+// What others (libbz2) made: with six tables that change, and of two blocks, of which the first one just fills the room that Make takes.
 func TestP12_4StreamsOfOthers(t *testing.T) {
 	var numbers []string
 	for i := range 900 {
